@@ -12,10 +12,18 @@ const (
 	anyParts   = "**"
 )
 
+// CheckPattern tells a pattern that is none also to those who have no path at hand.
+func CheckPattern(pattern string) error {
+	if !allParts(pattern, isPatternName) {
+		return api.ErrName
+	}
+	return nil
+}
+
 // Match a pattern.
 func Match(pattern, s string) (bool, error) {
-	if !allParts(pattern, isPatternName) {
-		return false, api.ErrName
+	if err := CheckPattern(pattern); err != nil {
+		return false, err
 	}
 	if err := Check(s); err != nil {
 		return false, err

@@ -94,6 +94,9 @@ func TestMatchErrors(t *testing.T) {
 		if is, err := Match(pattern, "a"); is || err != api.ErrName {
 			t.Errorf("Match(%q, a) is %v, %v", pattern, is, err)
 		}
+		if err := CheckPattern(pattern); err != api.ErrName {
+			t.Errorf("CheckPattern(%q) is %v", pattern, err)
+		}
 	}
 	for _, s := range []string{"", ".", "..", "*", "a*", "**", "a/", "/a", "a//b", "a/../b", "A", "a/b/c/d/e/f", "abcdefghijklm"} {
 		for _, pattern := range []string{"a", "*", "**", "**/*"} {
