@@ -5,6 +5,7 @@ import (
 	"strings"
 
 	"kilnfield/api"
+	"kilnfield/number"
 )
 
 const (
@@ -68,22 +69,13 @@ func readEntry(s string) (e entry, rest string, ok bool) {
 	if !ok {
 		return entry{}, "", false
 	}
-	many, ok := readNumber(digits)
+	many, ok := number.Read(digits, maxDigits)
 	if !ok || many > len(rest) {
 		return entry{}, "", false
 	}
 	bytes := rest[:many]
 	rest, ok = strings.CutPrefix(rest[many:], lineBreak)
 	return entry{p, bytes}, rest, ok
-}
-
-// readNumber: one is read only if it would be written so.
-func readNumber(digits string) (int, bool) {
-	if len(digits) > maxDigits {
-		return 0, false
-	}
-	n, err := strconv.Atoi(digits)
-	return n, err == nil && n >= 0 && strconv.Itoa(n) == digits
 }
 
 // rise: is each path greater than the one ahead?
